@@ -31,7 +31,7 @@ func sumStarts() []uint32 {
 	return starts
 }
 
-// textWithSum are texts, worked out by hand, whose sums are at the ends of the range, and a sum whose four bytes all differ.
+// textWithSum are texts with sums that were worked out apart from the program: some at the ends of the range, and one whose four bytes all differ.
 var textWithSum = []struct {
 	text string
 	sum  uint32
