@@ -348,28 +348,51 @@ func TestTogetherOfWrongEnvs(t *testing.T) {
 	}
 }
 
-// All of the first one stays; what the second one adds is got by its own name, and so is what was there.
+// bothOf is all of a, and of b each name that a has not, with its Val. A name of b without a Val is none of b's.
+func bothOf(a, b impl.Env) impl.Env {
+	both := impl.Env{Names: slices.Clone(a.Names), Vals: slices.Clone(a.Vals)}
+	for i := range min(len(b.Names), len(b.Vals)) {
+		if !slices.Contains(a.Names, b.Names[i]) {
+			both.Names, both.Vals = append(both.Names, b.Names[i]), append(both.Vals, b.Vals[i])
+		}
+	}
+	return both
+}
+
+func TestTogetherOfTooManyVals(t *testing.T) {
+	together(t, envOf("v", 1, 2), envOf("w", 5), envOf("v w", 1, 2, 5))
+	together(t, envOf("v", 1, 2, 3, 4), envOf("w u", 5, 6), envOf("v w u", 1, 2, 3, 4, 5, 6))
+	together(t, impl.Env{Vals: []int{7}}, envOf("w", 5), envOf("w", 7, 5))
+	together(t, impl.Env{Vals: []int{7}}, impl.Env{Vals: []int{8}}, impl.Env{Vals: []int{7}})
+	together(t, envOf("v", 1), envOf("w", 5, 6), envOf("v w", 1, 5))
+	together(t, envOf("v", 1), impl.Env{Vals: []int{8}}, envOf("v", 1))
+	together(t, envOf("v", 1, 2), envOf("w", 5, 6), envOf("v w", 1, 2, 5))
+}
+
+func TestTogetherOfTooFewVals(t *testing.T) {
+	together(t, envOf("v"), envOf("w", 5), envOf("v w", 5))
+	together(t, envOf("v w v", 999999, 999998), envOf("v w n", 3, 1000, 1000), envOf("v w v n", 999999, 999998, 1000))
+	together(t, envOf("v w", 1), envOf("w", 5), envOf("v w", 1))
+	together(t, envOf("v", 1), envOf("w u", 5), envOf("v w", 1, 5))
+	together(t, envOf("v", 1), envOf("w"), envOf("v", 1))
+	together(t, envOf("v", 1), envOf("v w", 5), envOf("v", 1))
+	together(t, envOf("v w", 1), envOf("u", 5, 6), envOf("v w u", 1, 5))
+}
+
+// All of the first one stays as it is, however many Names and Vals it has, and nothing comes in but of the second one.
 func TestTogetherOfListsOfUnlikeLength(t *testing.T) {
 	for _, a := range allEnvs() {
 		together(t, a, impl.Env{}, a)
 		together(t, a, a, a)
 		for _, b := range allEnvs() {
-			if len(a.Names)+len(b.Names) > 100 {
-				continue
-			}
-			got := impl.Together(a, b)
-			if !slices.Equal(got.Names[:len(a.Names)], a.Names) {
-				t.Errorf("Together(%v, %v) = %v", a, b, got)
-			}
-			for _, name := range a.Names {
-				gets(t, got, name, impl.GetIn(a, name))
-			}
-			for _, name := range b.Names {
-				if !slices.Contains(a.Names, name) {
-					gets(t, got, name, impl.GetIn(b, name))
-				}
-			}
+			together(t, a, b, bothOf(a, b))
 		}
+	}
+	inA, inB, vals := []string{"v", "w", "v", "u"}, []string{"u", "x", "v", "x"}, []int{1, 2, 3, 4, 5}
+	for i := range 5 * 6 * 5 * 6 {
+		a := impl.Env{Names: inA[:i%5], Vals: vals[:i/5%6]}
+		b := impl.Env{Names: inB[:i/30%5], Vals: vals[5-i/150:]}
+		together(t, a, b, bothOf(a, b))
 	}
 }
 
